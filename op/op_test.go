@@ -8,6 +8,7 @@ import (
 
 	"lagleash/api"
 	"lagleash/op"
+	"lagleash/sharing"
 )
 
 func put(key, value string) api.Op { return api.Op{Put: true, Key: key, Value: value} }
@@ -151,53 +152,18 @@ func TestAppendHandsOnChecksError(t *testing.T) {
 	}
 }
 
-const (
-	room = 128
-	mark = 0xEE
-)
-
-func marked() []byte { return bytes.Repeat([]byte{mark}, room) }
-
-func TestAppendLeavesWhatIsHandedIn(t *testing.T) {
+func TestAppendLeavesWhatIsHandedInAndAnswersNewMemory(t *testing.T) {
 	ops := mayNot()
 	for _, c := range may() {
 		ops = append(ops, c.o)
 	}
 	for _, o := range ops {
-		for _, used := range []int{0, 1, 5, room - 4, room - 1, room} {
-			whole := marked()
-			op.Append(whole[:used], o)
-			if !bytes.Equal(whole, marked()) {
-				t.Fatalf("Append(%d bytes, %+v) wrote to what was handed in", used, o)
-			}
-		}
-	}
-}
-
-func TestAppendAnswersNewMemory(t *testing.T) {
-	for _, c := range may() {
-		for _, used := range []int{0, 1, 5, room} {
-			whole := marked()
-			first, _ := op.Append(whole[:used], c.o)
-			second, _ := op.Append(whole[:used], c.o)
-			keep := bytes.Clone(second)
-			// Overwriting one answer, spare room and all, must not be seen anywhere else.
-			all := first[:cap(first)]
-			for i := range all {
-				if i >= len(first) && all[i] == mark {
-					t.Fatalf("%+v behind %d bytes: their spare room was handed out", c.o, used)
-				}
-				all[i] = 0x55
-			}
-			if !bytes.Equal(whole, marked()) {
-				t.Errorf("%+v behind %d bytes: the answer shares memory with them", c.o, used)
-			}
-			for i := range whole {
-				whole[i] = 0x33
-			}
-			if !bytes.Equal(second, keep) {
-				t.Errorf("%+v behind %d bytes: an answer was changed later", c.o, used)
-			}
+		wrong := sharing.Append(func(b []byte) []byte {
+			out, _ := op.Append(b, o)
+			return out
+		})
+		if wrong != "" {
+			t.Errorf("Append of %+v %s", o, wrong)
 		}
 	}
 }
@@ -284,7 +250,7 @@ func TestReadLeavesAndKeepsNothing(t *testing.T) {
 			t.Errorf("the bytes of %+v were changed", c.o)
 		}
 		for i := range b {
-			b[i] = mark
+			b[i] = 0xEE
 		}
 		if o != c.o {
 			t.Errorf("%+v became %+v when its bytes were overwritten", c.o, o)

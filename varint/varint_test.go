@@ -6,6 +6,7 @@ import (
 	"testing"
 
 	"lagleash/api"
+	"lagleash/sharing"
 	"lagleash/varint"
 )
 
@@ -99,48 +100,10 @@ func TestAppendAtSteps(t *testing.T) {
 	}
 }
 
-func TestAppendLeavesWhatIsHandedIn(t *testing.T) {
-	const room, mark = 64, 0xEE
+func TestAppendLeavesWhatIsHandedInAndAnswersNewMemory(t *testing.T) {
 	for _, s := range steps() {
-		for _, used := range []int{0, 1, 5, room - 1, room} {
-			whole := repeat(mark, room)
-			got := varint.Append(whole[:used], s.x)
-			if !bytes.Equal(whole, repeat(mark, room)) {
-				t.Fatalf("Append(%d bytes, %d) wrote to what was handed in", used, s.x)
-			}
-			if !bytes.Equal(got[:used], whole[:used]) {
-				t.Fatalf("Append(%d bytes, %d) = %v: other bytes ahead", used, s.x, got)
-			}
-		}
-	}
-}
-
-func TestAppendAnswersNewMemory(t *testing.T) {
-	const room, mark = 64, 0xEE
-	for _, used := range []int{0, 1, 5, room} {
-		whole := repeat(mark, room)
-		first := varint.Append(whole[:used], 300)
-		second := varint.Append(whole[:used], 300)
-		keep := bytes.Clone(second)
-		// Overwriting one answer, spare room and all, must not be seen anywhere else.
-		all := first[:cap(first)]
-		for i := range all {
-			if i >= len(first) && all[i] == mark {
-				t.Errorf("%d bytes handed in: their spare room was handed out", used)
-			}
-			all[i] = 0x55
-		}
-		if !bytes.Equal(whole, repeat(mark, room)) {
-			t.Errorf("%d bytes handed in: the answer shares memory with them", used)
-		}
-		if !bytes.Equal(second, keep) {
-			t.Errorf("%d bytes handed in: two answers share memory", used)
-		}
-		for i := range whole {
-			whole[i] = 0x33
-		}
-		if !bytes.Equal(second, keep) {
-			t.Errorf("%d bytes handed in: they were kept in the answer", used)
+		if wrong := sharing.Append(func(b []byte) []byte { return varint.Append(b, s.x) }); wrong != "" {
+			t.Errorf("Append of %d %s", s.x, wrong)
 		}
 	}
 }
